@@ -1,0 +1,56 @@
+// Package smear: leap seconds: calendar, files, and a server of smeared time: see DOC.md.
+package smear
+
+import (
+	"smear/api"
+	"smear/calendar"
+	"smear/digest"
+)
+
+// Server has a clock, a table, and what its sources say.
+type Server struct{}
+
+// Day is the number of a date (P3).
+func Day(y int, m int, d int) (int, api.Errno) { return calendar.Day(y, m, d) }
+
+// Civil is the date of a day's number (P3).
+func Civil(day int) (int, int, int, api.Errno) { return calendar.Civil(day) }
+
+// Digest is the SHA-1 of bytes, in hexadecimal digits (P4).
+func Digest(data string) string { return digest.Of(data) }
+
+// Parse reads a file (P5).
+func Parse(text string) (api.Table, api.Errno, int) { return api.Table{}, api.OK, 0 }
+
+// Print writes a file (P6).
+func Print(t api.Table) (string, api.Errno) { return "", api.OK }
+
+// Offset tells TAI less UTC at a second of TAI (P7).
+func Offset(t api.Table, sec int) (int, api.Errno) { return 0, api.OK }
+
+// Label tells the day of a second of TAI, and which second of that day it is (P8).
+func Label(t api.Table, sec int) (int, int, api.Errno) { return 0, 0, api.OK }
+
+// Second is the second of TAI of such a label (P8).
+func Second(t api.Table, day int, second int) (int, api.Errno) { return 0, api.OK }
+
+// New makes a server (P9).
+func New(c api.Config) (*Server, api.Errno) { return nil, api.OK }
+
+// See tells all that can be seen (P9).
+func (x *Server) See() api.State { return api.State{} }
+
+// Advance moves the clock (P10).
+func (x *Server) Advance(by api.Time) api.Errno { return api.OK }
+
+// Load takes a file (P11).
+func (x *Server) Load(text string) (api.Errno, int) { return api.OK, 0 }
+
+// Now tells the time that is served, and the leap indicator (P12, P13).
+func (x *Server) Now() (api.Time, int, api.Errno) { return api.Time{}, 0, api.OK }
+
+// Hear takes what a source says of leaps (P14).
+func (x *Server) Hear(source int, leap int) api.Errno { return api.OK }
+
+// Answer answers a client's packet (P15).
+func (x *Server) Answer(packet string) (string, api.Errno) { return "", api.OK }
