@@ -5,6 +5,8 @@ import (
 	"smear/api"
 	"smear/calendar"
 	"smear/digest"
+	"smear/file"
+	"smear/label"
 )
 
 // Server has a clock, a table, and what its sources say.
@@ -20,19 +22,19 @@ func Civil(day int) (int, int, int, api.Errno) { return calendar.Civil(day) }
 func Digest(data string) string { return digest.Of(data) }
 
 // Parse reads a file (P5).
-func Parse(text string) (api.Table, api.Errno, int) { return api.Table{}, api.OK, 0 }
+func Parse(text string) (api.Table, api.Errno, int) { return file.Parse(text) }
 
 // Print writes a file (P6).
-func Print(t api.Table) (string, api.Errno) { return "", api.OK }
+func Print(t api.Table) (string, api.Errno) { return file.Print(t) }
 
 // Offset tells TAI less UTC at a second of TAI (P7).
-func Offset(t api.Table, sec int) (int, api.Errno) { return 0, api.OK }
+func Offset(t api.Table, sec int) (int, api.Errno) { return label.Offset(t, sec) }
 
 // Label tells the day of a second of TAI, and which second of that day it is (P8).
-func Label(t api.Table, sec int) (int, int, api.Errno) { return 0, 0, api.OK }
+func Label(t api.Table, sec int) (int, int, api.Errno) { return label.Label(t, sec) }
 
 // Second is the second of TAI of such a label (P8).
-func Second(t api.Table, day int, second int) (int, api.Errno) { return 0, api.OK }
+func Second(t api.Table, day int, second int) (int, api.Errno) { return label.Second(t, day, second) }
 
 // New makes a server (P9).
 func New(c api.Config) (*Server, api.Errno) { return nil, api.OK }

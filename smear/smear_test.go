@@ -20,7 +20,7 @@ var numbers = []int{0, 1, 2, 3, 12, 13, 28, 29, 30, 31, 32, 86399, 86400, 1899, 
 	math.MaxInt - 1, math.MaxInt, -1, -2, -31, -1900, -401766, -1 << 31, -1 << 32, -1 << 62, math.MinInt + 1, math.MinInt}
 
 var texts = []string{"", "\n", "#", "#$", "#@ ", "#h", "#$ 1\n#@ 2\n", "0 0", "\x00\xff", "\t \t", "abc",
-	"#$ 2272060800\n#@ 2400000000\n2272060800 10\n2287785600 11\n#h 7679b25e 31e5a773 1a6a8652 3cab6ca6 41f6a862\n",
+	printed,
 	"#$ 99999999999\n#@ 99999999999\n99999999999 99999999999\n", "#$ 999999999999999999999999999999",
 	strings.Repeat("\n", api.MaxText), strings.Repeat("9", api.MaxText+1), strings.Repeat("#h ", 5000),
 	"\x1b" + strings.Repeat("\x00", 47), "\xe3" + strings.Repeat("\xff", 299)}
@@ -29,7 +29,7 @@ var texts = []string{"", "\n", "#", "#$", "#@ ", "#h", "#$ 1\n#@ 2\n", "0 0", "\
 func tables() []api.Table {
 	all := []api.Table{
 		{},
-		{Update: 2272060800, Expiry: 2400000000, Leaps: []api.Leap{{At: 2272060800, Offset: 10}, {At: 2287785600, Offset: 11}}},
+		exampleTable(),
 		{Update: math.MinInt, Expiry: math.MaxInt, Leaps: []api.Leap{{At: math.MaxInt, Offset: math.MaxInt}, {At: math.MinInt, Offset: math.MinInt}}},
 		{Update: 0, Expiry: 1, Leaps: make([]api.Leap, api.MaxLeaps)},
 		{Update: 0, Expiry: 1, Leaps: make([]api.Leap, 1000)},
@@ -77,6 +77,48 @@ func TestExamples(t *testing.T) {
 	}
 	if text := smear.Digest(""); text != "da39a3ee5e6b4b0d3255bfef95601890afd80709" {
 		t.Errorf("P4: Digest of nothing = %q", text)
+	}
+}
+
+// printed is the file of the document's table T.
+const printed = "#$ 2272060800\n#@ 2400000000\n2272060800 10\n2287785600 11\n#h 7679b25e 31e5a773 1a6a8652 3cab6ca6 41f6a862\n"
+
+// exampleTable is the document's table T.
+func exampleTable() api.Table {
+	return api.Table{Update: 2272060800, Expiry: 2400000000, Leaps: []api.Leap{{At: 2272060800, Offset: 10}, {At: 2287785600, Offset: 11}}}
+}
+
+func TestExampleOfAFile(t *testing.T) {
+	if text, e := smear.Print(exampleTable()); text != printed || e != api.OK {
+		t.Errorf("P6: Print(T) = %q, %d", text, e)
+	}
+	if table, e, n := smear.Parse(printed); e != api.OK || n != 0 || !reflect.DeepEqual(table, exampleTable()) {
+		t.Errorf("P5: Parse(Print(T)) = %v, %d, %d", table, e, n)
+	}
+	if table, e, n := smear.Parse(printed + "\n# x\nx\n"); e != api.ErrText || n != 7 || !reflect.DeepEqual(table, api.Table{}) {
+		t.Errorf("P5: Parse of a line that is none = %v, %d, %d", table, e, n)
+	}
+}
+
+func TestExampleOfLabels(t *testing.T) {
+	for sec, want := range map[int]int{2287785609: 10, 2287785610: 11} {
+		if offset, e := smear.Offset(exampleTable(), sec); offset != want || e != api.OK {
+			t.Errorf("P7: Offset(T, %d) = %d, %d", sec, offset, e)
+		}
+	}
+	for _, c := range []struct {
+		sec, day, second int
+		e                api.Errno
+	}{{2287785610, 26478, 86400, api.OK}, {2287785611, 26479, 0, api.OK}, {2272060809, 0, 0, api.ErrTime}} {
+		if day, second, e := smear.Label(exampleTable(), c.sec); day != c.day || second != c.second || e != c.e {
+			t.Errorf("P8: Label(T, %d) = %d, %d, %d", c.sec, day, second, e)
+		}
+	}
+	if sec, e := smear.Second(exampleTable(), 26478, 86400); sec != 2287785610 || e != api.OK {
+		t.Errorf("P8: Second(T, 26478, 86400) = %d, %d", sec, e)
+	}
+	if sec, e := smear.Second(exampleTable(), 26477, 86400); sec != 0 || e != api.ErrTime {
+		t.Errorf("P8: Second(T, 26477, 86400) = %d, %d", sec, e)
 	}
 }
 
@@ -223,6 +265,14 @@ func TestCallsLeaveNoTrace(t *testing.T) {
 		}
 		if y, m, d, e := smear.Civil(36583); e != api.OK || y != 2000 || m != 2 || d != 29 {
 			t.Fatalf("P2: Civil(36583) = %d, %d, %d, %d behind other calls", y, m, d, e)
+		}
+		smear.Parse(fmt.Sprintf("#$ %d\n#@ %d\n%d %d", n, n, n, n))
+		smear.Print(api.Table{Update: n, Expiry: n, Leaps: []api.Leap{{At: n, Offset: n}}})
+		if text, e := smear.Print(exampleTable()); text != printed || e != api.OK {
+			t.Fatalf("P2: Print(T) = %q, %d behind other calls", text, e)
+		}
+		if table, e, k := smear.Parse(printed); e != api.OK || k != 0 || !reflect.DeepEqual(table, exampleTable()) {
+			t.Fatalf("P2: Parse(Print(T)) = %v, %d, %d behind other calls", table, e, k)
 		}
 	}
 }
