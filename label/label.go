@@ -24,9 +24,7 @@ func Label(t api.Table, sec int) (int, int, api.Errno) {
 	if e != api.OK {
 		return 0, 0, e
 	}
-	// At a second that is put in, the entry behind it holds already: less its
-	// Offset the second still lies in the day that is a second longer, as it must.
-	day := (sec - offset) / table.DaySeconds
+	day := dayOf(sec, offset)
 	return day, sec - dayBegin(t.Leaps, day), api.OK
 }
 
@@ -47,6 +45,22 @@ func Second(t api.Table, day int, second int) (int, api.Errno) {
 	}
 	return sec, api.OK
 }
+
+// Extra tells how many seconds the day has more than others in which a second
+// of TAI is: 1, 0 or -1; 0, if none of a table's entries holds yet.
+func Extra(leaps []api.Leap, sec int) int {
+	i := table.Holder(leaps, sec)
+	if i < 0 {
+		return 0
+	}
+	day := dayOf(sec, leaps[i].Offset)
+	return dayLength(leaps, day) - table.DaySeconds
+}
+
+// dayOf is the day of a second of TAI at which that Offset holds. At a second
+// that is put in, the entry behind it holds already: less its Offset the second
+// still lies in the day that is a second longer, as it must.
+func dayOf(sec int, offset int) int { return (sec - offset) / table.DaySeconds }
 
 // lastAt tells the last entry whose At is not above the beginning of a day; -1, if there is none.
 func lastAt(leaps []api.Leap, day int) int {

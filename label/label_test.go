@@ -159,6 +159,9 @@ func checkSecond(t *testing.T, u api.Table, w walked, second int) {
 	if got, e := label.Second(u, w.day, second); got != sec || e != api.OK {
 		t.Fatalf("P8: %v: Second(%d, %d) = %d, %d, want %d", u, w.day, second, got, e, sec)
 	}
+	if extra := label.Extra(u.Leaps, sec); extra != w.length-86400 {
+		t.Fatalf("P8: %v: Extra at %d = %d, the day has %d seconds", u, sec, extra, w.length)
+	}
 	offset := w.offset
 	if second == 86400 {
 		offset++
@@ -217,6 +220,17 @@ func TestEverySecondAboutALeap(t *testing.T) {
 		for second := 0; second < w.length; second++ {
 			checkSecond(t, u, w, second)
 		}
+	}
+}
+
+func TestExtraWhereNoEntryHolds(t *testing.T) {
+	for _, sec := range []int{math.MinInt, -1, 0, 2272060809} {
+		if extra := label.Extra(upAndDown().Leaps, sec); extra != 0 {
+			t.Errorf("P8: Extra at %d = %d", sec, extra)
+		}
+	}
+	if extra := label.Extra(nil, 2287785610); extra != 0 {
+		t.Errorf("P8: Extra of no entries = %d", extra)
 	}
 }
 

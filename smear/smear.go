@@ -7,10 +7,11 @@ import (
 	"smear/digest"
 	"smear/file"
 	"smear/label"
+	"smear/server"
 )
 
 // Server has a clock, a table, and what its sources say.
-type Server struct{}
+type Server struct{ inner server.Server }
 
 // Day is the number of a date (P3).
 func Day(y int, m int, d int) (int, api.Errno) { return calendar.Day(y, m, d) }
@@ -37,19 +38,25 @@ func Label(t api.Table, sec int) (int, int, api.Errno) { return label.Label(t, s
 func Second(t api.Table, day int, second int) (int, api.Errno) { return label.Second(t, day, second) }
 
 // New makes a server (P9).
-func New(c api.Config) (*Server, api.Errno) { return nil, api.OK }
+func New(c api.Config) (*Server, api.Errno) {
+	inner, e := server.New(c)
+	if e != api.OK {
+		return nil, e
+	}
+	return &Server{inner: inner}, api.OK
+}
 
 // See tells all that can be seen (P9).
-func (x *Server) See() api.State { return api.State{} }
+func (x *Server) See() api.State { return x.inner.See() }
 
 // Advance moves the clock (P10).
-func (x *Server) Advance(by api.Time) api.Errno { return api.OK }
+func (x *Server) Advance(by api.Time) api.Errno { return x.inner.Advance(by) }
 
 // Load takes a file (P11).
-func (x *Server) Load(text string) (api.Errno, int) { return api.OK, 0 }
+func (x *Server) Load(text string) (api.Errno, int) { return x.inner.Load(text) }
 
 // Now tells the time that is served, and the leap indicator (P12, P13).
-func (x *Server) Now() (api.Time, int, api.Errno) { return api.Time{}, 0, api.OK }
+func (x *Server) Now() (api.Time, int, api.Errno) { return x.inner.Now() }
 
 // Hear takes what a source says of leaps (P14).
 func (x *Server) Hear(source int, leap int) api.Errno { return api.OK }

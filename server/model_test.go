@@ -1,0 +1,266 @@
+package server_test
+
+import (
+	"fmt"
+	"math/big"
+	"math/rand"
+	"testing"
+
+	"smear/api"
+	"smear/file"
+	"smear/server"
+)
+
+// model is a second reading of P9 to P12: times are counted in parts, and of
+// the last file's entries it is kept how many have begun.
+type model struct {
+	mode, window int
+	clock        *big.Int
+	file         *api.Table
+	begins       []*big.Int
+	begun        int
+	refused      int
+}
+
+func inParts(u api.Time) *big.Int {
+	n := new(big.Int).Lsh(big.NewInt(int64(u.Sec)), 32)
+	return n.Add(n, big.NewInt(int64(u.Frac)))
+}
+
+func asTime(n *big.Int) api.Time {
+	sec, frac := new(big.Int).DivMod(n, big.NewInt(1<<32), new(big.Int))
+	return api.Time{Sec: int(sec.Int64()), Frac: int(frac.Int64())}
+}
+
+func (m *model) sec() int { return asTime(m.clock).Sec }
+
+func turnOf(leaps []api.Leap, i int) int {
+	if i == 0 {
+		return leaps[0].At + leaps[0].Offset
+	}
+	return leaps[i].At + min(leaps[i].Offset, leaps[i-1].Offset)
+}
+
+func (m *model) look() {
+	for m.file != nil && m.begun < len(m.file.Leaps) && m.begins[m.begun].Cmp(m.clock) <= 0 {
+		m.begun++
+	}
+}
+
+func (m *model) advance(by api.Time) api.Errno {
+	if by.Sec < 0 || by.Frac < 0 || by.Frac > 4294967295 {
+		return api.ErrTime
+	}
+	sum := new(big.Int).Add(m.clock, inParts(by))
+	if sum.Cmp(inParts(api.Time{Sec: 34000000001})) >= 0 {
+		return api.ErrTime
+	}
+	m.clock = sum
+	m.look()
+	return api.OK
+}
+
+// verdict is the error of a file that can be parsed.
+func (m *model) verdict(u api.Table) api.Errno {
+	if m.file == nil {
+		if turnOf(u.Leaps, 0) > m.sec() {
+			return api.ErrAgree
+		}
+		return api.OK
+	}
+	if u.Update < m.file.Update {
+		return api.ErrOld
+	}
+	for i := range m.begun {
+		if i >= len(u.Leaps) || u.Leaps[i] != m.file.Leaps[i] {
+			return api.ErrAgree
+		}
+	}
+	for i := range u.Leaps {
+		if i >= m.begun && turnOf(u.Leaps, i) <= m.sec() {
+			return api.ErrAgree
+		}
+	}
+	return api.OK
+}
+
+func (m *model) load(s string) (api.Errno, int) {
+	u, e, line := file.Parse(s)
+	if e == api.OK {
+		e = m.verdict(u)
+	}
+	if e != api.OK {
+		m.refused++
+		return e, line
+	}
+	first := m.file == nil
+	m.file, m.begins = &u, nil
+	for i := range u.Leaps {
+		begin := inParts(api.Time{Sec: turnOf(u.Leaps, i) - m.window/2})
+		if begin.Cmp(m.clock) < 0 {
+			begin = m.clock
+		}
+		m.begins = append(m.begins, begin)
+		if first && turnOf(u.Leaps, i) <= m.sec() {
+			m.begun++
+		}
+	}
+	m.look()
+	return api.OK, 0
+}
+
+func (m *model) see() api.State {
+	s := api.State{Now: asTime(m.clock), Refused: m.refused}
+	if m.file == nil {
+		return s
+	}
+	s.Loaded, s.Update, s.Expiry, s.Done = true, m.file.Update, m.file.Expiry, m.file.Leaps[:m.begun]
+	for i := m.begun; i < len(m.file.Leaps); i++ {
+		s.Coming = append(s.Coming, api.Coming{At: m.file.Leaps[i].At, Offset: m.file.Leaps[i].Offset, Begin: asTime(m.begins[i])})
+	}
+	return s
+}
+
+// served is what a server that steps serves: the day in which the clock is is
+// found by trying days, each with its beginning and its length.
+func (m *model) served() string {
+	if m.file == nil {
+		return "0 0 3 8"
+	}
+	utc := asTime(m.clock)
+	for i := range m.begun {
+		if turnOf(m.file.Leaps, i) <= m.sec() {
+			utc.Sec = m.sec() - m.file.Leaps[i].Offset
+		}
+	}
+	indicator := 0
+	for day := m.sec()/86400 - 2; day <= m.sec()/86400+1; day++ {
+		begin, length := dayByWords(m.file.Leaps, day)
+		if begin <= m.sec() && m.sec() < begin+length {
+			indicator = map[int]int{86399: 2, 86400: 0, 86401: 1}[length]
+		}
+	}
+	return fmt.Sprint(utc.Sec, " ", utc.Frac, " ", indicator, " 0")
+}
+
+// dayByWords is the beginning and the length of a day as P8 has them.
+func dayByWords(leaps []api.Leap, day int) (int, int) {
+	begin, length := 86400*day, 86400
+	for i, leap := range leaps {
+		if leap.At <= 86400*day {
+			begin = 86400*day + leap.Offset
+		}
+		if i > 0 && leap.At == 86400*(day+1) {
+			length += leap.Offset - leaps[i-1].Offset
+		}
+	}
+	return begin, length
+}
+
+// drawn draws entries, one to four months from each other.
+func drawn(r *rand.Rand) []api.Leap {
+	year, month, offset := 1900+r.Intn(1060), 1+r.Intn(12), r.Intn(201)
+	var leaps []api.Leap
+	for range 1 + r.Intn(9) {
+		leaps = append(leaps, api.Leap{At: at(year, month), Offset: offset})
+		month += 1 + r.Intn(4)
+		if offset == 0 || offset < 200 && r.Intn(2) == 0 {
+			offset++
+		} else {
+			offset--
+		}
+	}
+	return leaps
+}
+
+// variant draws a file: the entries, or the first of them, or with one that is another, or with no sense.
+func variant(r *rand.Rand, leaps []api.Leap) string {
+	u := api.Table{Update: r.Intn(4), Expiry: 10 + r.Intn(3)}
+	u.Leaps = append(u.Leaps, leaps[:1+r.Intn(len(leaps))]...)
+	last := &u.Leaps[len(u.Leaps)-1]
+	switch r.Intn(6) {
+	case 0:
+		last.At += 86400 * (28 + r.Intn(4))
+	case 1:
+		last.Offset += 2 - 4*r.Intn(2)
+	case 2:
+		k := r.Intn(len(u.Leaps))
+		u.Leaps[k] = leaps[len(leaps)-1]
+	}
+	s, e := file.Print(u)
+	if e != api.OK {
+		return fmt.Sprintf("#$ %d\n# no file\n%d", u.Update, u.Expiry)
+	}
+	return s
+}
+
+// step draws how far the clock goes: often to a turn or a window's beginning, or just beside it.
+func step(r *rand.Rand, m *model, leaps []api.Leap) api.Time {
+	wrong := []api.Time{{Sec: -1}, {Frac: -1}, {Frac: 1 << 32}, {Sec: 1 << 62}, {Sec: 34000000000, Frac: 4294967295}, {Sec: 1, Frac: -1 << 62}}
+	switch r.Intn(8) {
+	case 0:
+		return wrong[r.Intn(len(wrong))]
+	case 1:
+		return api.Time{Sec: r.Intn(3), Frac: r.Intn(1 << 32)}
+	case 2:
+		return api.Time{Sec: r.Intn(86400 * 40)}
+	}
+	target := inParts(api.Time{Sec: turnOf(leaps, r.Intn(len(leaps))) - r.Intn(2)*m.window/2 + r.Intn(5) - 2 - r.Intn(2)*86400, Frac: r.Intn(3) - 1})
+	target.Sub(target, m.clock)
+	if target.Sign() < 0 {
+		return api.Time{Sec: r.Intn(2), Frac: r.Intn(2)}
+	}
+	return asTime(target)
+}
+
+func agree(t *testing.T, m *model, x *server.Server) {
+	t.Helper()
+	if got, want := fmt.Sprint(x.See()), fmt.Sprint(m.see()); got != want {
+		t.Fatalf("P9 to P11: See = %s, want %s", got, want)
+	}
+	if m.mode != api.Step {
+		return
+	}
+	if got, want := now(x), m.served(); got != want {
+		t.Fatalf("P12: Now = %s, want %s; the server: %+v", got, want, x.See())
+	}
+}
+
+// TestAgainstTheModel lets drawn calls go to a server and to the model.
+func TestAgainstTheModel(t *testing.T) {
+	r := rand.New(rand.NewSource(3))
+	taken := map[api.Errno]int{}
+	for run := range 3000 {
+		leaps := drawn(r)
+		c := api.Config{Mode: run % 3, Fresh: 1, Sources: r.Intn(9)}
+		if c.Mode != api.Step {
+			c.Window = []int{3600, 86400, 604800}[r.Intn(3)]
+		}
+		c.Start = api.Time{Sec: max(0, turnOf(leaps, r.Intn(len(leaps)))+r.Intn(5)-2-r.Intn(2)*86400*r.Intn(60)), Frac: r.Intn(2) * 4294967295}
+		x := made(t, c)
+		m := &model{mode: c.Mode, window: c.Window, clock: inParts(c.Start)}
+		agree(t, m, x)
+		for range 25 {
+			if r.Intn(3) == 0 {
+				s := variant(r, leaps)
+				e, n := x.Load(s)
+				want, line := m.load(s)
+				if e != want || n != line {
+					t.Fatalf("P11: Load(%q) = %d, %d, want %d, %d; the server: %+v", s, e, n, want, line, x.See())
+				}
+				taken[e]++
+			} else {
+				by := step(r, m, leaps)
+				if e, want := x.Advance(by), m.advance(by); e != want {
+					t.Fatalf("P10: Advance(%v) = %d, want %d; the server: %+v", by, e, want, x.See())
+				}
+			}
+			agree(t, m, x)
+		}
+	}
+	for _, e := range []api.Errno{api.OK, api.ErrText, api.ErrOld, api.ErrAgree} {
+		if taken[e] < 500 {
+			t.Errorf("the drawn files are too much alike: %v", taken)
+		}
+	}
+}
