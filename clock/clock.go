@@ -35,3 +35,26 @@ func Earlier(a api.Time, b api.Time) bool {
 	}
 	return a.Frac < b.Frac
 }
+
+// Gone is how long ago a time was that is not later than now.
+func Gone(now api.Time, then api.Time) api.Time {
+	gone := api.Time{Sec: now.Sec - then.Sec, Frac: now.Frac - then.Frac}
+	if gone.Frac < 0 {
+		gone.Sec--
+		gone.Frac += Parts
+	}
+	return gone
+}
+
+// Moved is a time moved on, or back, by at most a second's parts.
+func Moved(t api.Time, parts int) api.Time {
+	moved := api.Time{Sec: t.Sec, Frac: t.Frac + parts}
+	if moved.Frac < 0 {
+		moved.Sec--
+		moved.Frac += Parts
+	} else if moved.Frac >= Parts {
+		moved.Sec++
+		moved.Frac -= Parts
+	}
+	return moved
+}

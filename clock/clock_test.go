@@ -87,3 +87,29 @@ func TestEarlier(t *testing.T) {
 		}
 	}
 }
+
+func TestGone(t *testing.T) {
+	for _, now := range times() {
+		for _, then := range times() {
+			if !isTime(now) || !isTime(then) || clock.Earlier(now, then) {
+				continue
+			}
+			got := clock.Gone(now, then)
+			if want := new(big.Int).Sub(inParts(now), inParts(then)); !isTime(got) || inParts(got).Cmp(want) != 0 {
+				t.Fatalf("P13: from %v to %v = %v, want %d parts", then, now, got, want)
+			}
+		}
+	}
+}
+
+func TestMoved(t *testing.T) {
+	for _, u := range []api.Time{{Sec: 5}, {Sec: 5, Frac: 1}, {Sec: 5, Frac: 1 << 31}, {Sec: 5, Frac: 1<<32 - 1}, {Sec: api.MaxSec}} {
+		for _, by := range []int{0, 1, -1, 1 << 31, -1 << 31, 1<<32 - 1, 1 - 1<<32, 1 << 32, -1 << 32} {
+			got := clock.Moved(u, by)
+			want := new(big.Int).Add(inParts(u), big.NewInt(int64(by)))
+			if got.Frac < 0 || got.Frac >= 1<<32 || inParts(got).Cmp(want) != 0 {
+				t.Errorf("P13: %v moved by %d parts = %v, want %d parts", u, by, got, want)
+			}
+		}
+	}
+}

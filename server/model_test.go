@@ -11,8 +11,9 @@ import (
 	"smear/server"
 )
 
-// model is a second reading of P9 to P12: times are counted in parts, and of
-// the last file's entries it is kept how many have begun.
+// model is a second reading of P9 to P13: times are counted in parts, and of
+// the last file's entries it is kept how many have begun, and when each one's
+// window begins (nil, if it was over at the first file).
 type model struct {
 	mode, window int
 	clock        *big.Int
@@ -93,17 +94,19 @@ func (m *model) load(s string) (api.Errno, int) {
 		m.refused++
 		return e, line
 	}
-	first := m.file == nil
-	m.file, m.begins = &u, nil
 	for i := range u.Leaps {
+		if m.file == nil && turnOf(u.Leaps, i) <= m.sec() {
+			m.begins = append(m.begins, nil)
+			m.begun++
+		}
+	}
+	m.file, m.begins = &u, m.begins[:m.begun]
+	for i := m.begun; i < len(u.Leaps); i++ {
 		begin := inParts(api.Time{Sec: turnOf(u.Leaps, i) - m.window/2})
 		if begin.Cmp(m.clock) < 0 {
 			begin = m.clock
 		}
 		m.begins = append(m.begins, begin)
-		if first && turnOf(u.Leaps, i) <= m.sec() {
-			m.begun++
-		}
 	}
 	m.look()
 	return api.OK, 0
@@ -121,8 +124,7 @@ func (m *model) see() api.State {
 	return s
 }
 
-// served is what a server that steps serves: the day in which the clock is is
-// found by trying days, each with its beginning and its length.
+// served is what Now tells.
 func (m *model) served() string {
 	if m.file == nil {
 		return "0 0 3 8"
@@ -133,6 +135,55 @@ func (m *model) served() string {
 			utc.Sec = m.sec() - m.file.Leaps[i].Offset
 		}
 	}
+	for i := range m.begun {
+		if n := m.openFor(i); n != nil {
+			utc = m.smeared(i, n)
+		}
+	}
+	return fmt.Sprint(utc.Sec, " ", utc.Frac, " ", m.indicator(), " 0")
+}
+
+// openFor is for how many parts the window of an entry has been open; nil, if it is not.
+func (m *model) openFor(i int) *big.Int {
+	if m.mode == api.Step || m.begins[i] == nil {
+		return nil
+	}
+	n := new(big.Int).Sub(m.clock, m.begins[i])
+	if n.Cmp(inParts(api.Time{Sec: m.window})) >= 0 {
+		return nil
+	}
+	return n
+}
+
+// smeared reckons in fractions, and rounds once, at the end.
+func (m *model) smeared(i int, n *big.Int) api.Time {
+	served := new(big.Rat).SetInt(new(big.Int).Sub(m.clock, inParts(api.Time{Sec: m.file.Leaps[i-1].Offset})))
+	pull := m.pull(n)
+	if m.file.Leaps[i].Offset > m.file.Leaps[i-1].Offset {
+		pull.Neg(pull)
+	}
+	served.Add(served, pull)
+	return asTime(new(big.Int).Div(served.Num(), served.Denom()))
+}
+
+func (m *model) pull(n *big.Int) *big.Rat {
+	if m.mode == api.Linear {
+		return new(big.Rat).SetFrac(n, big.NewInt(int64(m.window)))
+	}
+	all := inParts(api.Time{Sec: m.window})
+	i, r := new(big.Int).DivMod(new(big.Int).Mul(n, big.NewInt(1024)), all, new(big.Int))
+	k := int(i.Int64())
+	g := func(i int) int64 { return int64(4 * i * i * (3072 - 2*i)) }
+	share := new(big.Rat).SetFrac(r.Mul(r, big.NewInt(g(k+1)-g(k))), all)
+	return share.Add(share, new(big.Rat).SetInt64(g(k)))
+}
+
+// indicator finds the day in which the clock is by trying days, each with its
+// beginning and its length.
+func (m *model) indicator() int {
+	if m.mode != api.Step {
+		return 0
+	}
 	indicator := 0
 	for day := m.sec()/86400 - 2; day <= m.sec()/86400+1; day++ {
 		begin, length := dayByWords(m.file.Leaps, day)
@@ -140,7 +191,7 @@ func (m *model) served() string {
 			indicator = map[int]int{86399: 2, 86400: 0, 86401: 1}[length]
 		}
 	}
-	return fmt.Sprint(utc.Sec, " ", utc.Frac, " ", indicator, " 0")
+	return indicator
 }
 
 // dayByWords is the beginning and the length of a day as P8 has them.
@@ -194,18 +245,20 @@ func variant(r *rand.Rand, leaps []api.Leap) string {
 	return s
 }
 
-// step draws how far the clock goes: often to a turn or a window's beginning, or just beside it.
+// step draws how far the clock goes: often to a turn or a window's beginning or end, just beside it, or into a window.
 func step(r *rand.Rand, m *model, leaps []api.Leap) api.Time {
 	wrong := []api.Time{{Sec: -1}, {Frac: -1}, {Frac: 1 << 32}, {Sec: 1 << 62}, {Sec: 34000000000, Frac: 4294967295}, {Sec: 1, Frac: -1 << 62}}
-	switch r.Intn(8) {
+	switch r.Intn(10) {
 	case 0:
 		return wrong[r.Intn(len(wrong))]
 	case 1:
 		return api.Time{Sec: r.Intn(3), Frac: r.Intn(1 << 32)}
 	case 2:
 		return api.Time{Sec: r.Intn(86400 * 40)}
+	case 3, 4:
+		return api.Time{Sec: r.Intn(1 + m.window/4), Frac: r.Intn(1 << 32)}
 	}
-	target := inParts(api.Time{Sec: turnOf(leaps, r.Intn(len(leaps))) - r.Intn(2)*m.window/2 + r.Intn(5) - 2 - r.Intn(2)*86400, Frac: r.Intn(3) - 1})
+	target := inParts(api.Time{Sec: turnOf(leaps, r.Intn(len(leaps))) + (r.Intn(3)-1)*m.window/2 + r.Intn(5) - 2 - r.Intn(2)*86400, Frac: r.Intn(3) - 1})
 	target.Sub(target, m.clock)
 	if target.Sign() < 0 {
 		return api.Time{Sec: r.Intn(2), Frac: r.Intn(2)}
@@ -218,11 +271,8 @@ func agree(t *testing.T, m *model, x *server.Server) {
 	if got, want := fmt.Sprint(x.See()), fmt.Sprint(m.see()); got != want {
 		t.Fatalf("P9 to P11: See = %s, want %s", got, want)
 	}
-	if m.mode != api.Step {
-		return
-	}
 	if got, want := now(x), m.served(); got != want {
-		t.Fatalf("P12: Now = %s, want %s; the server: %+v", got, want, x.See())
+		t.Fatalf("P12, P13: Now = %s, want %s; the server: %+v", got, want, x.See())
 	}
 }
 
@@ -230,7 +280,8 @@ func agree(t *testing.T, m *model, x *server.Server) {
 func TestAgainstTheModel(t *testing.T) {
 	r := rand.New(rand.NewSource(3))
 	taken := map[api.Errno]int{}
-	for run := range 3000 {
+	open := map[int]int{}
+	for run := range 6000 {
 		leaps := drawn(r)
 		c := api.Config{Mode: run % 3, Fresh: 1, Sources: r.Intn(9)}
 		if c.Mode != api.Step {
@@ -256,7 +307,13 @@ func TestAgainstTheModel(t *testing.T) {
 				}
 			}
 			agree(t, m, x)
+			if m.begun > 0 && m.openFor(m.begun-1) != nil {
+				open[m.mode]++
+			}
 		}
+	}
+	if open[api.Linear] < 2000 || open[api.Smooth] < 2000 {
+		t.Errorf("too few looks into open windows: %v", open)
 	}
 	for _, e := range []api.Errno{api.OK, api.ErrText, api.ErrOld, api.ErrAgree} {
 		if taken[e] < 500 {

@@ -14,13 +14,17 @@ const (
 	unknown    = 3
 )
 
-// Now tells the time that is served, and the leap indicator (P12).
+// Now tells the time that is served, and the leap indicator (P12, P13).
 func (x *Server) Now() (api.Time, int, api.Errno) {
 	if !x.state.Loaded {
 		return api.Time{}, unknown, api.ErrTable
 	}
-	utc := x.unsmeared()
-	return utc, x.indicator(), api.OK
+	indicator := x.indicator()
+	n, open := x.openFor()
+	if open {
+		return x.smeared(n), indicator, api.OK
+	}
+	return x.unsmeared(), indicator, api.OK
 }
 
 // unsmeared is UTC without smear, where there is a table.

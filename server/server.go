@@ -13,6 +13,11 @@ const maxFresh = 604800
 type Server struct {
 	mode, window int
 	state        api.State
+	// opened tells whether a window has begun on this server's clock, and begin
+	// when the last one did. An entry of the first file that turned ahead of it
+	// has none.
+	opened bool
+	begin  api.Time
 }
 
 // New makes a server (P9).
@@ -80,8 +85,15 @@ func (x *Server) lookAround() {
 		if clock.Earlier(x.state.Now, next.Begin) {
 			later = append(later, next)
 		} else {
-			x.state.Done = append(x.state.Done, api.Leap{At: next.At, Offset: next.Offset})
+			x.letBegin(next)
 		}
 	}
 	x.state.Coming = later
+}
+
+// letBegin makes an entry that was to come one that has begun.
+func (x *Server) letBegin(next api.Coming) {
+	x.state.Done = append(x.state.Done, api.Leap{At: next.At, Offset: next.Offset})
+	x.opened = true
+	x.begin = next.Begin
 }

@@ -28,6 +28,22 @@ func exampleServer(t *testing.T) *smear.Server {
 	return x
 }
 
+// exampleServers has one of each mode; those that smear have their window open already, or soon.
+func exampleServers(t *testing.T) []*smear.Server {
+	t.Helper()
+	all := []*smear.Server{exampleServer(t)}
+	for _, mode := range []int{api.Linear, api.Smooth} {
+		for _, sec := range []int{2287785600, 2287785610 - 1802} {
+			x := serverFrom(t, api.Config{Mode: mode, Window: 3600, Fresh: 60, Start: api.Time{Sec: sec, Frac: 5}})
+			if e, n := x.Load(printed); e != api.OK || n != 0 {
+				t.Fatalf("P11: Load(T) = %d, %d", e, n)
+			}
+			all = append(all, x)
+		}
+	}
+	return all
+}
+
 // seen is all that a server shows.
 func seen(x *smear.Server) string {
 	served, indicator, e := x.Now()
@@ -46,6 +62,33 @@ func TestExampleOfAServerThatSteps(t *testing.T) {
 		}
 		if e := x.Advance(api.Time{Sec: 1}); e != api.OK {
 			t.Errorf("P10: Advance = %d", e)
+		}
+	}
+}
+
+// TestExamplesOfServersThatSmear has each time that the document tells, seconds and parts behind Begin.
+func TestExamplesOfServersThatSmear(t *testing.T) {
+	for _, c := range []struct {
+		mode, sec, frac int
+		want            api.Time
+	}{
+		{api.Linear, 0, 0, api.Time{Sec: 2287742400}}, {api.Linear, 0, 1, api.Time{Sec: 2287742400}},
+		{api.Linear, 0, 86400, api.Time{Sec: 2287742400, Frac: 86399}}, {api.Linear, 21600, 0, api.Time{Sec: 2287763999, Frac: 3221225472}},
+		{api.Linear, 43200, 0, api.Time{Sec: 2287785599, Frac: 2147483648}}, {api.Smooth, 0, 0, api.Time{Sec: 2287742400}},
+		{api.Smooth, 21600, 0, api.Time{Sec: 2287763999, Frac: 3623878656}}, {api.Smooth, 43200, 0, api.Time{Sec: 2287785599, Frac: 2147483648}},
+	} {
+		x := serverFrom(t, api.Config{Mode: c.mode, Window: 86400, Fresh: 1, Start: api.Time{Sec: 2287000000}})
+		x.Load(printed)
+		if got := fmt.Sprint(x.See().Coming); got != "[{2287785600 11 {2287742410 0} false}]" {
+			t.Errorf("P11: Coming = %s", got)
+		}
+		x.Advance(api.Time{Sec: 742410})
+		if got := x.See(); len(got.Done) != 2 || len(got.Coming) != 0 {
+			t.Errorf("P11: at Begin: %+v", got)
+		}
+		x.Advance(api.Time{Sec: c.sec, Frac: c.frac})
+		if got, indicator, e := x.Now(); got != c.want || indicator != 0 || e != api.OK {
+			t.Errorf("P13: Now, mode %d, %d seconds and %d parts behind Begin = %v, %d, %d, want %v", c.mode, c.sec, c.frac, got, indicator, e, c.want)
 		}
 	}
 }
@@ -79,56 +122,83 @@ func TestConfigurationsAtAllNumbers(t *testing.T) {
 func TestAdvanceAtAllNumbers(t *testing.T) {
 	for _, sec := range numbers {
 		for _, frac := range numbers {
-			x := exampleServer(t)
-			before := seen(x)
-			good := sec >= 0 && sec <= 34000000000-2287785600 && frac >= 0 && frac <= 4294967295
-			e := x.Advance(api.Time{Sec: sec, Frac: frac})
-			if good != (e == api.OK) || !good && e != api.ErrTime {
-				t.Errorf("P10: Advance(%d, %d) = %d", sec, frac, e)
-			}
-			if !good && seen(x) != before {
-				t.Errorf("P2: Advance(%d, %d) was refused and turned %s to %s", sec, frac, before, seen(x))
+			for _, x := range exampleServers(t) {
+				checkAdvance(t, x, sec, frac)
 			}
 		}
+	}
+}
+
+func checkAdvance(t *testing.T, x *smear.Server, sec int, frac int) {
+	t.Helper()
+	before := seen(x)
+	good := sec >= 0 && sec <= 34000000000-x.See().Now.Sec && frac >= 0 && frac <= 4294967295
+	e := x.Advance(api.Time{Sec: sec, Frac: frac})
+	if good != (e == api.OK) || !good && e != api.ErrTime {
+		t.Errorf("P10: Advance(%d, %d) = %d", sec, frac, e)
+	}
+	if !good && seen(x) != before {
+		t.Errorf("P2: Advance(%d, %d) was refused and turned %s to %s", sec, frac, before, seen(x))
 	}
 }
 
 func TestLoadAtAllTexts(t *testing.T) {
 	for _, text := range texts {
-		x := exampleServer(t)
-		want := x.See()
-		_, parsed, line := smear.Parse(text)
-		e, n := x.Load(text)
-		if e != parsed || n != line {
-			t.Errorf("P11: Load(%.20q...) = %d, %d, Parse says %d, %d", text, e, n, parsed, line)
+		for _, x := range exampleServers(t) {
+			checkLoad(t, x, text)
 		}
-		if e != api.OK {
-			want.Refused++
-		}
-		if fmt.Sprint(x.See()) != fmt.Sprint(want) {
-			t.Errorf("P11: Load(%.20q...) made %+v, want %+v", text, x.See(), want)
-		}
+	}
+}
+
+// checkLoad hands in a text that is the server's own file, or none.
+func checkLoad(t *testing.T, x *smear.Server, text string) {
+	t.Helper()
+	want := x.See()
+	served, _, _ := x.Now()
+	_, parsed, line := smear.Parse(text)
+	e, n := x.Load(text)
+	if e != parsed || n != line {
+		t.Errorf("P11: Load(%.20q...) = %d, %d, Parse says %d, %d", text, e, n, parsed, line)
+	}
+	if e != api.OK {
+		want.Refused++
+	}
+	if fmt.Sprint(x.See()) != fmt.Sprint(want) {
+		t.Errorf("P11: Load(%.20q...) made %+v, want %+v", text, x.See(), want)
+	}
+	if now, _, _ := x.Now(); now != served {
+		t.Errorf("P13: Load(%.20q...) turned Now from %v to %v", text, served, now)
 	}
 }
 
 // TestLookingChangesNothing looks once at one server, and often at the other.
 func TestLookingChangesNothing(t *testing.T) {
-	x, y := exampleServer(t), exampleServer(t)
-	for i := range 20 {
-		for range 5 {
-			seen(x)
-		}
-		x.Advance(api.Time{Sec: 1, Frac: 1 << 31})
-		y.Advance(api.Time{Sec: 1, Frac: 1 << 31})
-		if seen(x) != seen(y) {
-			t.Fatalf("P2: %d seconds on: %s, where nobody looked %s", i, seen(x), seen(y))
+	often, once := exampleServers(t), exampleServers(t)
+	for k, x := range often {
+		y := once[k]
+		for i := range 20 {
+			for range 5 {
+				seen(x)
+			}
+			x.Advance(api.Time{Sec: 1, Frac: 1 << 31})
+			y.Advance(api.Time{Sec: 1, Frac: 1 << 31})
+			if seen(x) != seen(y) {
+				t.Fatalf("P2: %d steps on: %s, where nobody looked %s", i, seen(x), seen(y))
+			}
 		}
 	}
 }
 
 // TestListsAreTheCallers writes into what See handed out, and over its end.
 func TestListsAreTheCallers(t *testing.T) {
-	x, y := exampleServer(t), exampleServer(t)
+	written, kept := exampleServers(t), exampleServers(t)
+	for k := range written {
+		checkCallersLists(t, written[k], kept[k])
+	}
+}
+
+func checkCallersLists(t *testing.T, x *smear.Server, y *smear.Server) {
+	t.Helper()
 	for range 3 {
 		first, second := x.See(), x.See()
 		want := fmt.Sprint(second)
