@@ -41,6 +41,19 @@ func Civil(day int) (int, int, int, api.Errno) {
 	return y, m, rest + 1, api.OK
 }
 
+// NextMonth is the number of the day at which the month behind that of a day
+// begins; ErrDate, if one of the two is none.
+func NextMonth(day int) (int, api.Errno) {
+	y, m, _, e := Civil(day)
+	if e != api.OK {
+		return 0, e
+	}
+	if m == 12 {
+		return Day(y+1, 1, 1)
+	}
+	return Day(y, m+1, 1)
+}
+
 // yearOf begins at a guess that is never too late, as no year is longer than 366 days:
 // so only a few years are left to go.
 func yearOf(day int) int {

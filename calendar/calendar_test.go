@@ -123,3 +123,23 @@ func TestWrongNumbersInADate(t *testing.T) {
 		}
 	}
 }
+
+// TestNextMonth asks the library's calendar at every day. The month behind the last one is none.
+func TestNextMonth(t *testing.T) {
+	for day := 0; day < api.MaxDays; day++ {
+		at := time.Date(1900, 1, 1+day, 0, 0, 0, 0, time.UTC)
+		behind := time.Date(at.Year(), at.Month()+1, 1, 0, 0, 0, 0, time.UTC)
+		want, wantError := int(behind.Sub(at).Hours())/24+day, api.OK
+		if behind.Year() == 3000 {
+			want, wantError = 0, api.ErrDate
+		}
+		if next, e := NextMonth(day); next != want || e != wantError {
+			t.Fatalf("P14: NextMonth(%d) = %d, %d, want %d, %d", day, next, e, want, wantError)
+		}
+	}
+	for _, day := range []int{-1, -31, api.MaxDays, api.MaxDays + 31, 1 << 62, math.MaxInt, math.MinInt} {
+		if next, e := NextMonth(day); next != 0 || e != api.ErrDate {
+			t.Errorf("P1, P14: NextMonth(%d) = %d, %d", day, next, e)
+		}
+	}
+}

@@ -4,23 +4,39 @@ import (
 	"fmt"
 	"math/big"
 	"math/rand"
+	"slices"
 	"testing"
+	"time"
 
 	"smear/api"
 	"smear/file"
 	"smear/server"
 )
 
-// model is a second reading of P9 to P13: times are counted in parts, and of
-// the last file's entries it is kept how many have begun, and when each one's
-// window begins (nil, if it was over at the first file).
+// model is a second reading of P9 to P14: times are counted in parts, and all
+// entries stand in one list, of which it is kept how many have begun, when each
+// one's window begins (nil, if it was over at the first file), and whether the
+// last one is the sources'.
 type model struct {
-	mode, window int
-	clock        *big.Int
-	file         *api.Table
-	begins       []*big.Int
-	begun        int
-	refused      int
+	mode, window   int
+	sources, fresh int
+	clock          *big.Int
+	file           *api.Table
+	leaps          []api.Leap
+	begins         []*big.Int
+	begun          int
+	voted          bool
+	said           map[int]saying
+	refused        int
+}
+
+type saying struct {
+	leap int
+	at   *big.Int
+}
+
+func modelOf(c api.Config) *model {
+	return &model{mode: c.Mode, window: c.Window, sources: c.Sources, fresh: c.Fresh, clock: inParts(c.Start), said: map[int]saying{}}
 }
 
 func inParts(u api.Time) *big.Int {
@@ -43,9 +59,80 @@ func turnOf(leaps []api.Leap, i int) int {
 }
 
 func (m *model) look() {
-	for m.file != nil && m.begun < len(m.file.Leaps) && m.begins[m.begun].Cmp(m.clock) <= 0 {
+	if m.file == nil {
+		return
+	}
+	m.begin()
+	if m.begun < len(m.leaps) && !m.voted {
+		return
+	}
+	m.forget()
+	if by := m.vote(); by != 0 && m.utc() >= m.file.Expiry {
+		next := api.Leap{At: monthBehind(m.utc()), Offset: m.leaps[m.begun-1].Offset + by}
+		_, e := file.Print(api.Table{Expiry: 1, Leaps: append(slices.Clone(m.leaps), next)})
+		if e == api.OK && next.At+min(next.Offset, next.Offset-by) > m.sec() {
+			m.expect(next)
+			m.voted = true
+		}
+	}
+	m.begin()
+}
+
+func (m *model) begin() {
+	for m.begun < len(m.leaps) && m.begins[m.begun].Cmp(m.clock) <= 0 {
 		m.begun++
 	}
+}
+
+// forget: nothing is to come.
+func (m *model) forget() {
+	m.leaps, m.begins, m.voted = slices.Clone(m.leaps[:m.begun]), m.begins[:m.begun], false
+}
+
+// expect: one more entry is to come.
+func (m *model) expect(next api.Leap) {
+	m.leaps = append(m.leaps, next)
+	begin := inParts(api.Time{Sec: turnOf(m.leaps, len(m.leaps)-1) - m.window/2})
+	if begin.Cmp(m.clock) < 0 {
+		begin = m.clock
+	}
+	m.begins = append(m.begins, begin)
+}
+
+// vote is 1, -1 or 0, as the sources have it.
+func (m *model) vote() int {
+	heard := map[int]int{}
+	for _, s := range m.said {
+		until := new(big.Int).Add(s.at, inParts(api.Time{Sec: m.fresh}))
+		if m.clock.Cmp(until) <= 0 {
+			heard[s.leap]++
+		}
+	}
+	switch {
+	case heard[1] > heard[0]+heard[2]:
+		return 1
+	case heard[2] > heard[0]+heard[1]:
+		return -1
+	}
+	return 0
+}
+
+// monthBehind is the beginning of the month behind that of a second of UTC, by the library's calendar.
+func monthBehind(utc int) int {
+	u := time.Date(1900, 1, 1+utc/86400, 0, 0, 0, 0, time.UTC)
+	return at(u.Year(), int(u.Month())+1)
+}
+
+func (m *model) hear(source int, leap int) api.Errno {
+	if source < 0 || source >= m.sources {
+		return api.ErrSource
+	}
+	if leap < 0 || leap > 3 {
+		return api.ErrPacket
+	}
+	m.said[source] = saying{leap, m.clock}
+	m.look()
+	return api.OK
 }
 
 func (m *model) advance(by api.Time) api.Errno {
@@ -73,7 +160,7 @@ func (m *model) verdict(u api.Table) api.Errno {
 		return api.ErrOld
 	}
 	for i := range m.begun {
-		if i >= len(u.Leaps) || u.Leaps[i] != m.file.Leaps[i] {
+		if i >= len(u.Leaps) || u.Leaps[i] != m.leaps[i] {
 			return api.ErrAgree
 		}
 	}
@@ -96,17 +183,15 @@ func (m *model) load(s string) (api.Errno, int) {
 	}
 	for i := range u.Leaps {
 		if m.file == nil && turnOf(u.Leaps, i) <= m.sec() {
+			m.leaps = append(m.leaps, u.Leaps[i])
 			m.begins = append(m.begins, nil)
 			m.begun++
 		}
 	}
-	m.file, m.begins = &u, m.begins[:m.begun]
+	m.file = &u
+	m.forget()
 	for i := m.begun; i < len(u.Leaps); i++ {
-		begin := inParts(api.Time{Sec: turnOf(u.Leaps, i) - m.window/2})
-		if begin.Cmp(m.clock) < 0 {
-			begin = m.clock
-		}
-		m.begins = append(m.begins, begin)
+		m.expect(u.Leaps[i])
 	}
 	m.look()
 	return api.OK, 0
@@ -117,9 +202,9 @@ func (m *model) see() api.State {
 	if m.file == nil {
 		return s
 	}
-	s.Loaded, s.Update, s.Expiry, s.Done = true, m.file.Update, m.file.Expiry, m.file.Leaps[:m.begun]
-	for i := m.begun; i < len(m.file.Leaps); i++ {
-		s.Coming = append(s.Coming, api.Coming{At: m.file.Leaps[i].At, Offset: m.file.Leaps[i].Offset, Begin: asTime(m.begins[i])})
+	s.Loaded, s.Update, s.Expiry, s.Done = true, m.file.Update, m.file.Expiry, m.leaps[:m.begun]
+	for i := m.begun; i < len(m.leaps); i++ {
+		s.Coming = append(s.Coming, api.Coming{At: m.leaps[i].At, Offset: m.leaps[i].Offset, Begin: asTime(m.begins[i]), Voted: m.voted})
 	}
 	return s
 }
@@ -130,17 +215,24 @@ func (m *model) served() string {
 		return "0 0 3 8"
 	}
 	utc := asTime(m.clock)
-	for i := range m.begun {
-		if turnOf(m.file.Leaps, i) <= m.sec() {
-			utc.Sec = m.sec() - m.file.Leaps[i].Offset
-		}
-	}
+	utc.Sec = m.utc()
 	for i := range m.begun {
 		if n := m.openFor(i); n != nil {
 			utc = m.smeared(i, n)
 		}
 	}
 	return fmt.Sprint(utc.Sec, " ", utc.Frac, " ", m.indicator(), " 0")
+}
+
+// utc is the second of UTC without smear.
+func (m *model) utc() int {
+	utc := 0
+	for i := range m.begun {
+		if turnOf(m.leaps, i) <= m.sec() {
+			utc = m.sec() - m.leaps[i].Offset
+		}
+	}
+	return utc
 }
 
 // openFor is for how many parts the window of an entry has been open; nil, if it is not.
@@ -157,9 +249,9 @@ func (m *model) openFor(i int) *big.Int {
 
 // smeared reckons in fractions, and rounds once, at the end.
 func (m *model) smeared(i int, n *big.Int) api.Time {
-	served := new(big.Rat).SetInt(new(big.Int).Sub(m.clock, inParts(api.Time{Sec: m.file.Leaps[i-1].Offset})))
+	served := new(big.Rat).SetInt(new(big.Int).Sub(m.clock, inParts(api.Time{Sec: m.leaps[i-1].Offset})))
 	pull := m.pull(n)
-	if m.file.Leaps[i].Offset > m.file.Leaps[i-1].Offset {
+	if m.leaps[i].Offset > m.leaps[i-1].Offset {
 		pull.Neg(pull)
 	}
 	served.Add(served, pull)
@@ -186,7 +278,7 @@ func (m *model) indicator() int {
 	}
 	indicator := 0
 	for day := m.sec()/86400 - 2; day <= m.sec()/86400+1; day++ {
-		begin, length := dayByWords(m.file.Leaps, day)
+		begin, length := dayByWords(m.leaps, day)
 		if begin <= m.sec() && m.sec() < begin+length {
 			indicator = map[int]int{86399: 2, 86400: 0, 86401: 1}[length]
 		}
@@ -269,7 +361,7 @@ func step(r *rand.Rand, m *model, leaps []api.Leap) api.Time {
 func agree(t *testing.T, m *model, x *server.Server) {
 	t.Helper()
 	if got, want := fmt.Sprint(x.See()), fmt.Sprint(m.see()); got != want {
-		t.Fatalf("P9 to P11: See = %s, want %s", got, want)
+		t.Fatalf("P9 to P11, P14: See = %s, want %s", got, want)
 	}
 	if got, want := now(x), m.served(); got != want {
 		t.Fatalf("P12, P13: Now = %s, want %s; the server: %+v", got, want, x.See())
@@ -289,7 +381,7 @@ func TestAgainstTheModel(t *testing.T) {
 		}
 		c.Start = api.Time{Sec: max(0, turnOf(leaps, r.Intn(len(leaps)))+r.Intn(5)-2-r.Intn(2)*86400*r.Intn(60)), Frac: r.Intn(2) * 4294967295}
 		x := made(t, c)
-		m := &model{mode: c.Mode, window: c.Window, clock: inParts(c.Start)}
+		m := modelOf(c)
 		agree(t, m, x)
 		for range 25 {
 			if r.Intn(3) == 0 {

@@ -1,9 +1,10 @@
-// Package server keeps a clock and what files said of leaps, and serves UTC by them.
+// Package server keeps a clock and what files and sources said of leaps, and serves UTC by them.
 package server
 
 import (
 	"smear/api"
 	"smear/clock"
+	"smear/votes"
 )
 
 // maxFresh is the greatest Fresh, in seconds: package api has no name for it.
@@ -11,8 +12,10 @@ const maxFresh = 604800
 
 // Server is what is kept from call to call.
 type Server struct {
-	mode, window int
-	state        api.State
+	mode, window   int
+	sources, fresh int
+	state          api.State
+	votes          votes.Votes
 	// opened tells whether a window has begun on this server's clock, and begin
 	// when the last one did. An entry of the first file that turned ahead of it
 	// has none.
@@ -25,7 +28,9 @@ func New(c api.Config) (Server, api.Errno) {
 	if !isConfig(c) {
 		return Server{}, api.ErrConfig
 	}
-	return Server{mode: c.Mode, window: c.Window, state: api.State{Now: c.Start}}, api.OK
+	x := Server{mode: c.Mode, window: c.Window, sources: c.Sources, fresh: c.Fresh}
+	x.state.Now = c.Start
+	return x, api.OK
 }
 
 func isConfig(c api.Config) bool {
@@ -75,25 +80,4 @@ func (x *Server) Advance(by api.Time) api.Errno {
 	x.state.Now = now
 	x.lookAround()
 	return api.OK
-}
-
-// lookAround lets begin what is due (P14).
-func (x *Server) lookAround() {
-	var later []api.Coming
-	for i := 0; i < len(x.state.Coming); i++ {
-		next := x.state.Coming[i]
-		if clock.Earlier(x.state.Now, next.Begin) {
-			later = append(later, next)
-		} else {
-			x.letBegin(next)
-		}
-	}
-	x.state.Coming = later
-}
-
-// letBegin makes an entry that was to come one that has begun.
-func (x *Server) letBegin(next api.Coming) {
-	x.state.Done = append(x.state.Done, api.Leap{At: next.At, Offset: next.Offset})
-	x.opened = true
-	x.begin = next.Begin
 }

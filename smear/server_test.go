@@ -2,6 +2,7 @@ package smear_test
 
 import (
 	"fmt"
+	"strings"
 	"testing"
 	"unsafe"
 
@@ -28,13 +29,32 @@ func exampleServer(t *testing.T) *smear.Server {
 	return x
 }
 
+// askedServers has one of each mode whose file has run out, half a minute of the
+// clock ahead of where a window of 3,600 seconds begins.
+func askedServers(t *testing.T) []*smear.Server {
+	t.Helper()
+	var all []*smear.Server
+	for _, mode := range []int{api.Step, api.Linear, api.Smooth} {
+		c := api.Config{Mode: mode, Window: 3600, Sources: 3, Fresh: 60, Start: api.Time{Sec: 2400969611 - 1830, Frac: 5}}
+		if mode == api.Step {
+			c.Window = 0
+		}
+		x := serverFrom(t, c)
+		if e, n := x.Load(printed); e != api.OK || n != 0 {
+			t.Fatalf("P11: Load(T) = %d, %d", e, n)
+		}
+		all = append(all, x)
+	}
+	return all
+}
+
 // exampleServers has one of each mode; those that smear have their window open already, or soon.
 func exampleServers(t *testing.T) []*smear.Server {
 	t.Helper()
 	all := []*smear.Server{exampleServer(t)}
 	for _, mode := range []int{api.Linear, api.Smooth} {
 		for _, sec := range []int{2287785600, 2287785610 - 1802} {
-			x := serverFrom(t, api.Config{Mode: mode, Window: 3600, Fresh: 60, Start: api.Time{Sec: sec, Frac: 5}})
+			x := serverFrom(t, api.Config{Mode: mode, Window: 3600, Sources: 3, Fresh: 60, Start: api.Time{Sec: sec, Frac: 5}})
 			if e, n := x.Load(printed); e != api.OK || n != 0 {
 				t.Fatalf("P11: Load(T) = %d, %d", e, n)
 			}
@@ -44,10 +64,14 @@ func exampleServers(t *testing.T) []*smear.Server {
 	return all
 }
 
+// clientPacket is one of version 3, with an extension field.
+var clientPacket = "\x1b\x00\x06" + strings.Repeat("q", 37) + "abcdefgh" + "zz\x00\x10" + strings.Repeat("f", 12)
+
 // seen is all that a server shows.
 func seen(x *smear.Server) string {
 	served, indicator, e := x.Now()
-	return fmt.Sprintf("%+v %v %d %d", x.See(), served, indicator, e)
+	answer, answered := x.Answer(clientPacket)
+	return fmt.Sprintf("%+v %v %d %d %q %d", x.See(), served, indicator, e, answer, answered)
 }
 
 func TestExampleOfAServerThatSteps(t *testing.T) {
@@ -95,8 +119,8 @@ func TestExamplesOfServersThatSmear(t *testing.T) {
 
 func TestServersWithoutATable(t *testing.T) {
 	x := serverFrom(t, api.Config{Fresh: 1})
-	want := "{Now:{Sec:0 Frac:0} Loaded:false Update:0 Expiry:0 Done:[] Coming:[] Refused:0} {0 0} 3 8"
-	if got := seen(x); got != want {
+	want := "{Now:{Sec:0 Frac:0} Loaded:false Update:0 Expiry:0 Done:[] Coming:[] Refused:0} {0 0} 3 8 "
+	if got := seen(x); !strings.HasPrefix(got, want) {
 		t.Errorf("P9, P12: a new server: %s, want %s", got, want)
 	}
 }
@@ -240,6 +264,7 @@ func TestServersAreApart(t *testing.T) {
 	x.Advance(api.Time{Sec: 11})
 	x.Load("x")
 	x.Load(printed)
+	x.Hear(0, 1)
 	if seen(y) != want {
 		t.Errorf("P2: another server turned to %s, was %s", seen(y), want)
 	}
@@ -264,5 +289,139 @@ func TestFilesAreNotKept(t *testing.T) {
 	}
 	if seen(x) != want {
 		t.Errorf("P2: the file was kept: %s, was %s", seen(x), want)
+	}
+}
+
+func TestExampleOfAServerWithSources(t *testing.T) {
+	x := serverFrom(t, api.Config{Sources: 3, Fresh: 1, Start: api.Time{Sec: 2400000100}})
+	if e, n := x.Load(printed); e != api.OK || n != 0 {
+		t.Fatalf("P11: Load(T) = %d, %d", e, n)
+	}
+	one := "[{2400969600 12 {2400969611 0} true}]"
+	for _, c := range []struct {
+		source, leap int
+		want         string
+	}{{0, 1, one}, {1, 1, one}, {2, 0, one}, {1, 3, "[]"}} {
+		if e := x.Hear(c.source, c.leap); e != api.OK {
+			t.Errorf("P14: Hear(%d, %d) = %d", c.source, c.leap, e)
+		}
+		if got := fmt.Sprint(x.See().Coming); got != c.want {
+			t.Errorf("P14: Coming behind Hear(%d, %d) = %s, want %s", c.source, c.leap, got, c.want)
+		}
+	}
+}
+
+func TestHearAtAllNumbers(t *testing.T) {
+	for _, source := range numbers {
+		for _, leap := range numbers {
+			for _, x := range append(exampleServers(t), askedServers(t)...) {
+				checkHear(t, x, source, leap)
+			}
+		}
+	}
+}
+
+func checkHear(t *testing.T, x *smear.Server, source int, leap int) {
+	t.Helper()
+	before := seen(x)
+	want := api.OK
+	if source < 0 || source > 2 {
+		want = api.ErrSource
+	} else if leap < 0 || leap > 3 {
+		want = api.ErrPacket
+	}
+	if e := x.Hear(source, leap); e != want {
+		t.Errorf("P14: Hear(%d, %d) = %d, want %d", source, leap, e, want)
+	}
+	if want != api.OK && seen(x) != before {
+		t.Errorf("P2: Hear(%d, %d) was refused and turned %s to %s", source, leap, before, seen(x))
+	}
+}
+
+func TestAnswerAtAllTexts(t *testing.T) {
+	all := append([]string{clientPacket, clientPacket[:48], clientPacket[:47], clientPacket + "x"}, texts...)
+	for _, text := range all {
+		for _, x := range append(exampleServers(t), serverFrom(t, api.Config{Fresh: 1})) {
+			before := seen(x)
+			s, e := x.Answer(text)
+			good := len(text) >= 48 && (text == clientPacket || text == clientPacket[:48] || text == "\x1b"+strings.Repeat("\x00", 47))
+			if good != (e == api.OK) || good != (len(s) == 48) || !good && (s != "" || e != api.ErrPacket) {
+				t.Errorf("P15: Answer(%.20q...) of %d bytes = %q, %d", text, len(text), s, e)
+			}
+			if seen(x) != before {
+				t.Errorf("P2: Answer(%.20q...) turned %s to %s", text, before, seen(x))
+			}
+		}
+	}
+}
+
+// TestExampleOfAnAnswer has each byte, by hand: half an hour into a smooth window of two hours.
+func TestExampleOfAnAnswer(t *testing.T) {
+	x := serverFrom(t, api.Config{Mode: api.Smooth, Window: 7200, Fresh: 1, Start: api.Time{Sec: 2287785610 - 3600}})
+	empty := "\xdc\x00\x06\xec" + strings.Repeat("\x00", 8) + "INIT" + strings.Repeat("\x00", 8) + "abcdefgh" + strings.Repeat("\x00", 16)
+	if s, e := x.Answer(clientPacket); s != empty || e != api.OK {
+		t.Errorf("P15: Answer without a table = %q, %d", s, e)
+	}
+	x.Load(printed)
+	x.Advance(api.Time{Sec: 1800})
+	// 2287783799 seconds and 3623878656 parts are served.
+	when := "\x88\x5c\xcf\x77\xd8\x00\x00\x00"
+	full := "\x1c\x01\x06\xec" + strings.Repeat("\x00", 8) + "LEAP" + when + "abcdefgh" + when + when
+	if s, e := x.Answer(clientPacket); s != full || e != api.OK {
+		t.Errorf("P15: Answer in a window = %q, %d, want %q", s, e, full)
+	}
+}
+
+// TestPacketsAreNotKept writes over the bytes of a packet that was answered.
+func TestPacketsAreNotKept(t *testing.T) {
+	x := exampleServer(t)
+	data := []byte(clientPacket)
+	s, e := x.Answer(unsafe.String(&data[0], len(data)))
+	if e != api.OK || string(data) != clientPacket {
+		t.Fatalf("P2: Answer = %d, and the packet is %q", e, data)
+	}
+	want := strings.Clone(s)
+	for i := range data {
+		data[i] = '7'
+	}
+	if s != want {
+		t.Errorf("P2: the answer is the packet's memory: %q, was %q", s, want)
+	}
+}
+
+// TestLookingAtVotesChangesNothing looks often at one server with sources, and not at the other; they hear the same.
+func TestLookingAtVotesChangesNothing(t *testing.T) {
+	often, once := askedServers(t), askedServers(t)
+	for k, x := range often {
+		y := once[k]
+		for i := range 40 {
+			for range 5 {
+				seen(x)
+			}
+			source, leap := i%3, []int{1, 1, 0, 1, 3, 2, 2}[i%7]
+			x.Hear(source, leap)
+			y.Hear(source, leap)
+			x.Advance(api.Time{Sec: 7, Frac: 1 << 31})
+			y.Advance(api.Time{Sec: 7, Frac: 1 << 31})
+			if seen(x) != seen(y) {
+				t.Fatalf("P2: %d steps on: %s, where nobody looked %s", i, seen(x), seen(y))
+			}
+		}
+	}
+}
+
+// TestVotedListsAreTheCallers writes into what See told of entries that sources said.
+func TestVotedListsAreTheCallers(t *testing.T) {
+	written, kept := askedServers(t), askedServers(t)
+	for k, x := range written {
+		y := kept[k]
+		x.Hear(0, 1)
+		y.Hear(0, 1)
+		if got := x.See().Coming; len(got) != 1 || !got[0].Voted {
+			t.Errorf("P14: Coming = %v", got)
+		}
+		for range 10 {
+			checkCallersLists(t, x, y)
+		}
 	}
 }

@@ -59,7 +59,7 @@ func (x *Server) Load(text string) (api.Errno, int) { return x.inner.Load(text) 
 func (x *Server) Now() (api.Time, int, api.Errno) { return x.inner.Now() }
 
 // Hear takes what a source says of leaps (P14).
-func (x *Server) Hear(source int, leap int) api.Errno { return api.OK }
+func (x *Server) Hear(source int, leap int) api.Errno { return x.inner.Hear(source, leap) }
 
 // Answer answers a client's packet (P15).
-func (x *Server) Answer(packet string) (string, api.Errno) { return "", api.OK }
+func (x *Server) Answer(packet string) (string, api.Errno) { return x.inner.Answer(packet) }
